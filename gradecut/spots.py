@@ -7,12 +7,16 @@ MOST = 6
 
 
 def place(spot, size):
-    # The size stays out of the words: Python refuses to write very great numbers as text.
-    if size < LEAST or size > MOST:
-        raise BadSize("a size runs from -6 to 6")
+    check_size(size)
     if size < 0:
         return moved(spot, spot[4], spot[5], -size)
     return moved(spot, spot[2], spot[3], size)
+
+
+def check_size(size):
+    # The size stays out of the words: Python refuses to write very great numbers as text.
+    if size < LEAST or size > MOST:
+        raise BadSize("a size runs from -6 to 6")
 
 
 def moved(spot, across, up, steps):

@@ -24,6 +24,11 @@ OWN_NAMES = set(
     "ZeroDivisionError ArithmeticError OverflowError RuntimeError NotImplementedError AttributeError "
     "StopIteration".split()
 )
+OWN_METHODS = set(
+    "append clear copy count endswith extend find get index insert isalnum isalpha isdigit islower isspace isupper "
+    "items join keys ljust lower lstrip partition pop remove replace reverse rfind rjust rpartition rsplit rstrip "
+    "setdefault split splitlines startswith strip update upper values zfill bit_length".split()
+)
 SPECIAL_METHODS = {"__init__", "__eq__", "__repr__", "__str__", "__len__"}
 UNUSED_WORDS = re.compile(
     r"\b(type|typing|typing_extensions|enum|Enum|IntEnum|StrEnum|Flag|IntFlag|Generic|Protocol|ABC|ABCMeta|"
@@ -47,8 +52,53 @@ def node_faults(tree):
             yield f"{line}: finally"
         if isinstance(node, ast.BinOp) and isinstance(node.op, ast.Pow) and not written_exponent(node.right):
             yield f"{line}: an exponent that is not written out"
+        if isinstance(node, ast.ListComp) and (len(node.generators) > 1 or len(node.generators[0].ifs) > 1):
+            yield f"{line}: more than one for or if in a list"
+        if isinstance(node, ast.Compare) and not is_beside_a_plain_value(node):
+            yield f"{line}: is beside something else than None, True and False"
         if isinstance(node, ast.FunctionDef):
             yield from function_faults(node)
+        if isinstance(node, ast.ClassDef):
+            yield from class_faults(node)
+
+
+def is_beside_a_plain_value(node):
+    pairs = zip(node.ops, node.comparators)
+    beside = [right for kind, right in pairs if isinstance(kind, (ast.Is, ast.IsNot))]
+    return all(isinstance(right, ast.Constant) and right.value in (None, True, False) for right in beside)
+
+
+def class_faults(node):
+    if len(node.bases) > 1 or node.keywords or node.decorator_list:
+        yield f"{node.lineno}: more than one base"
+    for part in node.body:
+        docstring = isinstance(part, ast.Expr) and isinstance(part.value, ast.Constant)
+        if not docstring and not isinstance(part, (ast.FunctionDef, ast.Pass)):
+            yield f"{part.lineno}: something else than a method in a class"
+
+
+def methods_of(tree):
+    classes = [node for node in ast.walk(tree) if isinstance(node, ast.ClassDef)]
+    return {part.name for node in classes for part in node.body if isinstance(part, ast.FunctionDef)}
+
+
+def values_of(tree):
+    attributes = [node for node in ast.walk(tree) if isinstance(node, ast.Attribute)]
+    return {node.attr for node in attributes if isinstance(node.ctx, ast.Store)}
+
+
+def package_trees():
+    return [ast.parse(path.read_text()) for path in sorted(PACKAGE.rglob("*.py"))]
+
+
+def method_faults(tree, trees):
+    methods = set().union(*map(methods_of, trees))
+    for node in ast.walk(tree):
+        if isinstance(node, ast.Call) and isinstance(node.func, ast.Attribute):
+            if node.func.attr not in methods | OWN_METHODS:
+                yield f"{node.lineno}: the method {node.func.attr} is not at hand"
+    for name in sorted(values_of(tree) & methods):
+        yield f"{name} is a method and a value"
 
 
 def written_exponent(node):
@@ -82,11 +132,26 @@ def name_faults(tree):
     for name in sorted(bound):
         if not re.fullmatch(r"[A-Za-z][A-Za-z0-9_]*", name) and name not in SPECIAL_METHODS:
             yield f"the name {name}"
-        if hasattr(builtins, name):
+        if hasattr(builtins, name) and name not in SPECIAL_METHODS:
             yield f"{name} is a name of Python's own"
     for node in ast.walk(tree):
         if isinstance(node, ast.Name) and node.id not in bound and node.id not in OWN_NAMES:
             yield f"{node.lineno}: the name {node.id} is not at hand"
+
+
+def top_faults(tree):
+    imports = [alias.name for part in tree.body if isinstance(part, ast.ImportFrom) for alias in part.names]
+    own = [name for part in tree.body if isinstance(part, (ast.FunctionDef, ast.ClassDef)) for name in [part.name]]
+    values = [name for part in tree.body if isinstance(part, ast.Assign) for name in bound_names(part)]
+    top = imports + own + values
+    for name in sorted(set(top)):
+        if top.count(name) > 1:
+            yield f"{name} is bound twice at the top"
+    classes = [part.name for part in tree.body if isinstance(part, ast.ClassDef)]
+    for function in [node for node in ast.walk(tree) if isinstance(node, ast.FunctionDef)]:
+        within = [name for part in [function.args, *function.body] for name in bound_names(part)]
+        for name in sorted(set(within) & set(imports + classes)):
+            yield f"{function.lineno}: {name} is called like an import or a class"
 
 
 def import_faults(tree):
@@ -119,7 +184,9 @@ def text_faults(text):
 
 def faults(text):
     tree = ast.parse(text)
-    return [*text_faults(text), *node_faults(tree), *name_faults(tree), *import_faults(tree)]
+    trees = [tree, *package_trees()]
+    by_tree = [*node_faults(tree), *name_faults(tree), *top_faults(tree), *import_faults(tree)]
+    return [*text_faults(text), *by_tree, *method_faults(tree, trees)]
 
 
 class LanguageTest(unittest.TestCase):
@@ -142,6 +209,11 @@ class LanguageTest(unittest.TestCase):
             "def f(a):\n    b = c = a\n    return b\n", "def f(a):\n    yield a\n", "def f(a):\n    assert a\n",
             "def f(a):\n    for b in a:\n        pass\n    else:\n        pass\n", "def _f(a):\n    return a\n",
             "def f(a):\n    hash = a\n    return hash\n", "# which type\n", "A = 1\t\n", "def f(a):\n" + "    a = 1\n" * 40,
+            "def f(a):\n    return [b + c for b in a for c in a]\n", "def f(a):\n    return [b for b in a if b if a]\n",
+            "def f(a):\n    return any(b for b in a)\n", "def f(a, b):\n    return a is b\n", "class A:\n    b = 1\n",
+            "def f(a):\n    a.sort()\n", "def f(a):\n    a.corners = 1\n", "A = 1\nA = 2\n",
+            "from gradecut.spots import place\n\n\ndef f(place):\n    return place\n",
+            "def f():\n    pass\n\n\ndef f():\n    pass\n",
         )
         for text in outside:
             with self.subTest(text):

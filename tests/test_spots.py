@@ -1,7 +1,7 @@
 import unittest
 
 from gradecut import errors
-from gradecut.spots import LEAST, MOST, place
+from gradecut.spots import LEAST, MOST, check_size, place
 
 SPOT = (1000, -500, 7, -3, -11, 20)
 PLACES = {
@@ -88,6 +88,16 @@ class PlaceTest(unittest.TestCase):
     def test_a_size_beyond_is_refused_for_a_spot_that_never_moves_too(self):
         for size in BEYOND:
             self.assertRaises(errors.BadSize, place, (0, 0, 0, 0, 0, 0), size)
+
+
+class CheckSizeTest(unittest.TestCase):
+    def test_each_size_is_taken(self):
+        for size in range(-6, 7):
+            self.assertIsNone(check_size(size))
+
+    def test_a_size_beyond_is_refused(self):
+        for size in BEYOND:
+            self.assertRaises(errors.BadSize, check_size, size)
 
 
 if __name__ == "__main__":
