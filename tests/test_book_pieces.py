@@ -1,13 +1,12 @@
 import copy
 import unittest
 
-from book_case import GREAT, MIDDLE, TRIANGLE, TRIANGLE_MARKS, BookCase, ring, state
+from book_case import BAD_SIZES, GREAT, MIDDLE, TRIANGLE, TRIANGLE_MARKS, BookCase, ring, state
 from gradecut.book import Book
 from gradecut.errors import BadMove, BadPiece, BadSize, Full, NoSuch
 from gradecut.spots import place
 
 BOUNDS = (20000, 20000, 200, 200, 200, 200)
-BAD_SIZES = (-7, 7, 8, -13, 100, GREAT, -GREAT)
 
 
 def replaced(spot, index, number):

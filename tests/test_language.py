@@ -36,6 +36,14 @@ UNUSED_WORDS = re.compile(
 )
 
 
+WALKED = {"zip", "enumerate", "reversed", "range", "items", "keys", "values"}
+UNUSED_NAMES = set(
+    "register mro elements open input version_info with_traceback add_note attrgetter breakpoint builtins compile "
+    "copyright credits delattr dir eval exec exit gc getattr globals hasattr help id importlib license locals "
+    "methodcaller os quit setattr super vars sys chr format format_map".split()
+)
+
+
 def node_faults(tree):
     for node in ast.walk(tree):
         kind = node.__class__.__name__
@@ -56,10 +64,33 @@ def node_faults(tree):
             yield f"{line}: more than one for or if in a list"
         if isinstance(node, ast.Compare) and not is_beside_a_plain_value(node):
             yield f"{line}: is beside something else than None, True and False"
+        if isinstance(node, (ast.Assign, ast.Return)) and called_name(node.value) in WALKED:
+            yield f"{line}: what is walked at once is kept"
+        if isinstance(node, ast.Constant) and isinstance(node.value, str) and "%" in node.value:
+            yield f"{line}: the sign for a rest within a text"
+        if {getattr(node, "id", ""), getattr(node, "attr", ""), getattr(node, "arg", "")} & UNUSED_NAMES:
+            yield f"{line}: a name that is not used"
+        if isinstance(node, ast.Try):
+            yield from try_faults(node)
         if isinstance(node, ast.FunctionDef):
             yield from function_faults(node)
         if isinstance(node, ast.ClassDef):
             yield from class_faults(node)
+
+
+def called_name(node):
+    if not isinstance(node, ast.Call):
+        return None
+    return getattr(node.func, "id", getattr(node.func, "attr", None))
+
+
+def try_faults(node):
+    taken = {name.id for handler in node.handlers for name in ast.walk(handler.type) if isinstance(name, ast.Name)}
+    calls = {called_name(part) for row in node.body for part in ast.walk(row) if isinstance(part, ast.Call)}
+    if taken & {"Exception", "TypeError", "AttributeError"}:
+        yield f"{node.lineno}: an error that is not taken"
+    if taken & {"ValueError", "LookupError"} and (len(node.body) > 1 or not calls <= {"int", "str", "index", "remove"}):
+        yield f"{node.lineno}: an error of Python's own round more than it may be taken round"
 
 
 def is_beside_a_plain_value(node):
@@ -169,6 +200,11 @@ def import_faults(tree):
                 yield f"{node.lineno}: {alias.name} is not defined there"
 
 
+def drawn_from(name):
+    tree = ast.parse((PACKAGE / f"{name}.py").read_text())
+    return {node.module.partition(".")[2] for node in tree.body if isinstance(node, ast.ImportFrom)}
+
+
 def text_faults(text):
     rows = text.split("\n")
     if len(rows) > 400:
@@ -201,6 +237,13 @@ class LanguageTest(unittest.TestCase):
             with self.subTest(path.name):
                 self.assertEqual(faults(path.read_text()), [])
 
+    def test_no_two_files_draw_from_one_another(self):
+        left = {path.stem: drawn_from(path.stem) for path in PACKAGE.rglob("*.py")}
+        while left:
+            free = [name for name in left if not left[name] & set(left)]
+            self.assertNotEqual(free, [], left)
+            left = {name: left[name] for name in left if name not in free}
+
     def test_code_outside_the_rules_is_seen(self):
         outside = (
             "import math\n", "from math import isqrt\n", "from . import errors\n",
@@ -208,12 +251,17 @@ class LanguageTest(unittest.TestCase):
             "def f(*a):\n    return a\n", "def f(n):\n    return 2 ** n\n", "def f(a):\n    return open(a)\n",
             "def f(a):\n    b = c = a\n    return b\n", "def f(a):\n    yield a\n", "def f(a):\n    assert a\n",
             "def f(a):\n    for b in a:\n        pass\n    else:\n        pass\n", "def _f(a):\n    return a\n",
-            "def f(a):\n    hash = a\n    return hash\n", "# which type\n", "A = 1\t\n", "def f(a):\n" + "    a = 1\n" * 40,
+            "def f(a):\n    hash = a\n    return hash\n", "# which type\n", "A = 1\t\n",
+            "def f(a):\n" + "    a = 1\n" * 40,
             "def f(a):\n    return [b + c for b in a for c in a]\n", "def f(a):\n    return [b for b in a if b if a]\n",
             "def f(a):\n    return any(b for b in a)\n", "def f(a, b):\n    return a is b\n", "class A:\n    b = 1\n",
             "def f(a):\n    a.sort()\n", "def f(a):\n    a.corners = 1\n", "A = 1\nA = 2\n",
             "from gradecut.spots import place\n\n\ndef f(place):\n    return place\n",
-            "def f():\n    pass\n\n\ndef f():\n    pass\n",
+            "def f():\n    pass\n\n\ndef f():\n    pass\n", "def f(a):\n    b = zip(a, a)\n    return list(b)\n",
+            "def f(a):\n    return a.keys()\n", "A = \"100%\"\n", "def f(a):\n    return a.elements\n",
+            "def f(a):\n    return chr(a)\n",
+            "def f(a):\n    try:\n        return f(int(a))\n    except ValueError:\n        return 0\n",
+            "def f(a):\n    try:\n        return f(a)\n    except TypeError:\n        return 0\n",
         )
         for text in outside:
             with self.subTest(text):
